@@ -218,11 +218,7 @@ func PiecesText(list []int) (string, bool) {
 	if len(list) == 0 {
 		return "0", true
 	}
-	words := []string{}
-	for _, piece := range list {
-		words = append(words, strconv.Itoa(piece))
-	}
-	return strings.Join(words, "+"), true
+	return numbersText(list, "+"), true
 }
 
 // ParsePieces returns the pieces with a PiecesText. It fails if there are none such.
@@ -230,16 +226,8 @@ func ParsePieces(s string) ([]int, bool) {
 	if s == "0" {
 		return nil, true
 	}
-	list := []int{}
-	for _, word := range strings.Split(s, "+") {
-		piece, err := strconv.Atoi(word)
-		if err != nil {
-			return nil, false
-		}
-		list = append(list, piece)
-	}
-	// Atoi takes more than a PiecesText has, as signs and zeros in front.
-	if text, ok := PiecesText(list); !ok || text != s {
+	list, ok := parseNumbers(s, "+")
+	if !ok || !ArePieces(list) {
 		return nil, false
 	}
 	return list, true
@@ -350,4 +338,29 @@ func runOf(list []int) int {
 
 func withoutPiece(list []int, at int) []int {
 	return slices.Concat(list[:at], list[at+1:])
+}
+
+func numbersText(list []int, between string) string {
+	words := []string{}
+	for _, n := range list {
+		words = append(words, strconv.Itoa(n))
+	}
+	return strings.Join(words, between)
+}
+
+// parseNumbers returns the numbers, at least one, with a numbersText. It fails if there are none such.
+func parseNumbers(s, between string) ([]int, bool) {
+	list := []int{}
+	for _, word := range strings.Split(s, between) {
+		n, err := strconv.Atoi(word)
+		if err != nil {
+			return nil, false
+		}
+		list = append(list, n)
+	}
+	// Atoi takes more than a numbersText has, as signs and zeros in front.
+	if numbersText(list, between) != s {
+		return nil, false
+	}
+	return list, true
 }

@@ -95,20 +95,25 @@ func fillAll(list []int) {
 }
 
 func TestParsePiecesTakesAllTexts(t *testing.T) {
-	signs := []byte("0123+-9 \n\x00\xff")
+	checkAllTexts(t, "ParsePieces", "0123+-9 \n\x00\xff", 4, impl.ParsePieces, impl.PiecesText)
+}
+
+// checkAllTexts parses all texts of at most so many of the bytes: just those may be taken that are written for what they tell.
+func checkAllTexts(t *testing.T, name, signs string, longest int, parse func(string) ([]int, bool), write func([]int) (string, bool)) {
+	t.Helper()
 	var try func(s string)
 	try = func(s string) {
-		list, ok := impl.ParsePieces(s)
-		if text, written := impl.PiecesText(list); ok && (!written || text != s) {
-			t.Errorf("ParsePieces takes %q", s)
+		list, ok := parse(s)
+		if text, written := write(list); ok && (!written || text != s) {
+			t.Errorf("%s takes %q", name, s)
 		}
 		if !ok && len(list) != 0 {
-			t.Errorf("ParsePieces fails for %q with %v", s, list)
+			t.Errorf("%s fails for %q with %v", name, s, list)
 		}
-		if len(s) == 4 {
+		if len(s) == longest {
 			return
 		}
-		for _, b := range signs {
+		for _, b := range []byte(signs) {
 			try(s + string([]byte{b}))
 		}
 	}
