@@ -2,6 +2,7 @@ package tests
 
 import (
 	"math"
+	"reflect"
 	"slices"
 	"testing"
 
@@ -99,16 +100,16 @@ func TestParsePiecesTakesAllTexts(t *testing.T) {
 }
 
 // checkAllTexts parses all texts of at most so many of the bytes: just those may be taken that are written for what they tell.
-func checkAllTexts(t *testing.T, name, signs string, longest int, parse func(string) ([]int, bool), write func([]int) (string, bool)) {
+func checkAllTexts[T any](t *testing.T, name, signs string, longest int, parse func(string) (T, bool), write func(T) (string, bool)) {
 	t.Helper()
 	var try func(s string)
 	try = func(s string) {
-		list, ok := parse(s)
-		if text, written := write(list); ok && (!written || text != s) {
+		told, ok := parse(s)
+		if text, written := write(told); ok && (!written || text != s) {
 			t.Errorf("%s takes %q", name, s)
 		}
-		if !ok && len(list) != 0 {
-			t.Errorf("%s fails for %q with %v", name, s, list)
+		if !ok && !reflect.ValueOf(told).IsZero() {
+			t.Errorf("%s fails for %q with %v", name, s, told)
 		}
 		if len(s) == longest {
 			return
