@@ -17,8 +17,8 @@ type pieceSum struct {
 	length int
 }
 
-// made tells how a length is made by pieces. A sum has at least one way,
-// so the zero value stands for a length that is no sum.
+// made tells how a length is made by pieces, or on both sides (chapter 7) a value.
+// A sum has at least one way, so the zero value stands for a length that is no sum.
 type made struct {
 	ways   int
 	fewest int
@@ -65,13 +65,7 @@ func CountSums(list []int) (int, bool) {
 	if !ArePieces(list) {
 		return 0, false
 	}
-	count := 0
-	for _, m := range tableOf(list) {
-		if m != (made{}) {
-			count++
-		}
-	}
-	return count, true
+	return countMade(tableOf(list)), true
 }
 
 // WaysOf returns how many ways there are to make a sum.
@@ -119,17 +113,7 @@ func GapsOf(list []int) ([]int, bool) {
 	if !ArePieces(list) {
 		return nil, false
 	}
-	gaps := []int{}
-	for length, m := range tableOf(list) {
-		if m != (made{}) {
-			continue
-		}
-		if len(gaps) == maxListedGaps {
-			return nil, false
-		}
-		gaps = append(gaps, length)
-	}
-	return gaps, true
+	return gapsIn(tableOf(list))
 }
 
 // PutPiece returns the pieces with one more, of a length in 1..MaxPiece. It fails if there are MaxPieces.
@@ -311,6 +295,31 @@ func isSum(table []made, length int) bool {
 	return length < len(table) && table[length] != (made{})
 }
 
+func countMade(table []made) int {
+	count := 0
+	for _, m := range table {
+		if m != (made{}) {
+			count++
+		}
+	}
+	return count
+}
+
+// gapsIn returns the lengths that are not made, increasing. It fails if there are more than maxListedGaps.
+func gapsIn(table []made) ([]int, bool) {
+	gaps := []int{}
+	for length, m := range table {
+		if m != (made{}) {
+			continue
+		}
+		if len(gaps) == maxListedGaps {
+			return nil, false
+		}
+		gaps = append(gaps, length)
+	}
+	return gaps, true
+}
+
 // madeOf tells how a length is made. Its last result is false if these are no pieces or the length may not be asked for.
 func madeOf(list []int, length int) (made, bool) {
 	if !ArePieces(list) || !isAskedSum(length) {
@@ -338,6 +347,16 @@ func runOf(list []int) int {
 
 func withoutPiece(list []int, at int) []int {
 	return slices.Concat(list[:at], list[at+1:])
+}
+
+// hasOnly reports whether all signs of a text are some of the given ones, of one byte each.
+func hasOnly(text, signs string) bool {
+	for _, sign := range text {
+		if !strings.ContainsRune(signs, sign) {
+			return false
+		}
+	}
+	return true
 }
 
 func numbersText(list []int, between string) string {

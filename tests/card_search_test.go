@@ -314,17 +314,3 @@ func wantNoCards(t *testing.T, name string, got impl.Cards, ok bool) {
 		t.Errorf("%s: got %v, %v; want none, false", name, got, ok)
 	}
 }
-
-func wantLie(t *testing.T, name string, x, k int, ok bool, wantX, wantK int) {
-	t.Helper()
-	if !ok || x != wantX || k != wantK {
-		t.Errorf("%s: got %d, %d, %v; want %d, %d, true", name, x, k, ok, wantX, wantK)
-	}
-}
-
-func wantNoLie(t *testing.T, name string, x, k int, ok bool) {
-	t.Helper()
-	if ok || x != 0 || k != 0 {
-		t.Errorf("%s: got %d, %d, %v; want 0, 0, false", name, x, k, ok)
-	}
-}

@@ -26,7 +26,7 @@ func TestCardExamples(t *testing.T) {
 	text, ok = impl.CardsText(two)
 	wantText(t, "CardsText of CheckedCards 2", text, ok, "2#1,1,1")
 	x, k, ok := impl.LieTold(two, "yyn")
-	wantLie(t, "LieTold yyn", x, k, ok, 1, 2)
+	wantPair(t, "LieTold yyn", x, k, ok, 1, 2)
 	four, ok := impl.CheckedCards(4)
 	wantCards(t, "CheckedCards 4", four, ok, impl.Cards{Numbers: 4, Lists: [][]int{{1, 2}, {1, 3}, {1, 3}, {2, 3}, {2, 3}}})
 	text, ok = impl.CardsText(four)
@@ -63,9 +63,9 @@ func TestLiesAreThoseOfTheSearch(t *testing.T) {
 			x, k, ok := impl.LieTold(c, answers)
 			wantX, wantK, is := lieBySearch(all, answers)
 			if is {
-				wantLie(t, cardName("LieTold", c, answers), x, k, ok, wantX, wantK)
+				wantPair(t, cardName("LieTold", c, answers), x, k, ok, wantX, wantK)
 			} else {
-				wantNoLie(t, cardName("LieTold", c, answers), x, k, ok)
+				wantNoPair(t, cardName("LieTold", c, answers), x, k, ok)
 			}
 		}
 	}
@@ -207,10 +207,10 @@ func TestCheckedCardsFindEachSingleLie(t *testing.T) {
 		for x := range numbers {
 			answers, _ := impl.AnswersOf(c, x)
 			number, k, ok := impl.LieTold(c, answers)
-			wantLie(t, cardName("LieTold", c, answers), number, k, ok, x, -1)
+			wantPair(t, cardName("LieTold", c, answers), number, k, ok, x, -1)
 			for lie := range c.Lists {
 				number, k, ok := impl.LieTold(c, flipped(answers, lie))
-				wantLie(t, cardName("LieTold", c, flipped(answers, lie)), number, k, ok, x, lie)
+				wantPair(t, cardName("LieTold", c, flipped(answers, lie)), number, k, ok, x, lie)
 			}
 		}
 		if apart, ok := impl.LeastApart(c); !ok || apart < 3 {
@@ -247,7 +247,7 @@ func TestOneNumberAndNoCards(t *testing.T) {
 	list, ok := impl.NumbersTold(one, "")
 	wantList(t, "NumbersTold of 1#", list, ok, []int{0})
 	x, k, ok := impl.LieTold(one, "")
-	wantLie(t, "LieTold of 1#", x, k, ok, 0, -1)
+	wantPair(t, "LieTold of 1#", x, k, ok, 0, -1)
 	is, ok := impl.TellsAll(one)
 	wantBool(t, "TellsAll of 1#", is, ok, true)
 	is, ok = impl.IsSumCards(one)
@@ -268,7 +268,7 @@ func TestOneNumberAndNoCards(t *testing.T) {
 	is, ok = impl.TellsAll(none)
 	wantBool(t, "TellsAll of 128#", is, ok, false)
 	x, k, ok = impl.LieTold(none, "")
-	wantNoLie(t, "LieTold of 128#", x, k, ok)
+	wantNoPair(t, "LieTold of 128#", x, k, ok)
 }
 
 func TestAnswersThatNoNumberHasAndThatManyHave(t *testing.T) {
@@ -319,20 +319,20 @@ func TestLiesThatAreToldOrNot(t *testing.T) {
 	c := impl.Cards{Numbers: 3, Lists: [][]int{{1}, {1, 2}, {1, 2}, {1, 2}}}
 	for answers, want := range map[string][]int{"nnnn": {0, -1}, "ynnn": {0, 0}, "nnny": {0, 3}, "nnyy": {2, 1}, "nyyn": {2, 3}, "yyny": {1, 2}, "ynyy": {1, 1}} {
 		x, k, ok := impl.LieTold(c, answers)
-		wantLie(t, cardName("LieTold", c, answers), x, k, ok, want[0], want[1])
+		wantPair(t, cardName("LieTold", c, answers), x, k, ok, want[0], want[1])
 	}
 	for _, answers := range []string{"nyyy", "yyyy", "ynny", "yynn"} {
 		x, k, ok := impl.LieTold(c, answers)
-		wantNoLie(t, cardName("LieTold", c, answers), x, k, ok)
+		wantNoPair(t, cardName("LieTold", c, answers), x, k, ok)
 	}
 	one := impl.Cards{Numbers: 1, Lists: [][]int{{}, {0}, {0}, {}}}
 	for answers, lie := range map[string]int{"nyyn": -1, "yyyn": 0, "nnyn": 1, "nynn": 2, "nyyy": 3} {
 		x, k, ok := impl.LieTold(one, answers)
-		wantLie(t, cardName("LieTold", one, answers), x, k, ok, 0, lie)
+		wantPair(t, cardName("LieTold", one, answers), x, k, ok, 0, lie)
 	}
 	for _, answers := range []string{"nnnn", "yyyy", "ynnn", "nnny"} {
 		x, k, ok := impl.LieTold(one, answers)
-		wantNoLie(t, cardName("LieTold", one, answers), x, k, ok)
+		wantNoPair(t, cardName("LieTold", one, answers), x, k, ok)
 	}
 }
 
@@ -484,7 +484,7 @@ func wantNoAnswersTaken(t *testing.T, c impl.Cards, answers string) {
 		wantNoList(t, cardName("NumbersWithLies", c, answers), list, ok)
 	}
 	x, k, ok := impl.LieTold(c, answers)
-	wantNoLie(t, cardName("LieTold", c, answers), x, k, ok)
+	wantNoPair(t, cardName("LieTold", c, answers), x, k, ok)
 	n, ok := impl.FirstsSum(c, answers)
 	wantNoNumber(t, cardName("FirstsSum", c, answers), n, ok)
 }

@@ -148,6 +148,20 @@ func wantNoText(t *testing.T, name string, got string, ok bool) {
 	}
 }
 
+func wantPair(t *testing.T, name string, a, b int, ok bool, wantA, wantB int) {
+	t.Helper()
+	if !ok || a != wantA || b != wantB {
+		t.Errorf("%s: got %d, %d, %v; want %d, %d, true", name, a, b, ok, wantA, wantB)
+	}
+}
+
+func wantNoPair(t *testing.T, name string, a, b int, ok bool) {
+	t.Helper()
+	if ok || a != 0 || b != 0 {
+		t.Errorf("%s: got %d, %d, %v; want 0, 0, false", name, a, b, ok)
+	}
+}
+
 func named(name string, n int) string {
 	return name + " " + strconv.Itoa(n)
 }
